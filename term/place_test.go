@@ -30,7 +30,8 @@ func TestA3Places(t *testing.T) {
 }
 
 func TestA3PlacesShareNoMemory(t *testing.T) {
-	u := parse(t, "c(c(a,b(X0)),c(X1,b(a)))")
+	// Deep enough that a list which grows has spare room for a way's next step.
+	u := parse(t, "c(a,c(a,c(a,c(a,c(a,a)))))")
 	want := term.Places(u)
 	got := term.Places(u)
 	for i := range got {
